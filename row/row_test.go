@@ -170,6 +170,9 @@ func wrongWithKey(c api.Column, v api.Value) error {
 	if err := value.Valid(v); err != nil {
 		return err
 	}
+	if v.Kind == api.KindNull {
+		return api.ErrKind
+	}
 	if v.Kind == c.Kind {
 		return nil
 	}
@@ -625,9 +628,23 @@ func TestRW2KeyOf(t *testing.T) {
 		{"bk", list(null()), "", api.ErrKind},
 		{"ik bk", list(num(1), null()), "", api.ErrKind},
 		{"xk", list(null()), "", api.ErrKind},
-		// A column that layer 15 would not let be is taken as it is: null is of its kind.
-		{"nk", list(null()), "\x01", nil},
+		// A column that layer 15 would not let be is taken as it is, but no value is right there: null neither, be it of the column's kind.
+		{"nk", list(null()), "", api.ErrKind},
+		{"nko", list(null()), "", api.ErrKind},
+		{"no", list(null()), "", api.ErrArg},
 		{"nk", list(num(0)), "", api.ErrKind},
+		{"nk", list(text("")), "", api.ErrKind},
+		{"nk", list(truth(false)), "", api.ErrKind},
+		{"nk", list(api.Value{Int: 1}), "", api.ErrForm},
+		{"nk", list(text(strings.Repeat("a", api.MaxText+1))), "", api.ErrLong},
+		{"nk", nil, "", api.ErrArg},
+		{"nk", list(null(), null()), "", api.ErrArg},
+		{"nk ik", list(null(), num(1)), "", api.ErrKind},
+		{"ik nk", list(num(1), null()), "", api.ErrKind},
+		{"ik nk ik", list(num(1), null(), api.Value{Kind: 9}), "", api.ErrKind},
+		{"ik nk ik", list(api.Value{Kind: 9}, null(), num(1)), "", api.ErrForm},
+		{"no ik nko", list(num(1), null()), "", api.ErrKind},
+		{strings.Repeat("nk ", api.MaxColumns+1), times(api.MaxColumns+1, null()), "", api.ErrKind},
 		{"xk", list(num(0)), "", api.ErrKind},
 		{"xk", list(api.Value{Kind: 4}), "", api.ErrForm},
 		{"yk", list(api.Value{Kind: -1}), "", api.ErrForm},
@@ -662,6 +679,28 @@ func TestRW2KeyOfByTheWords(t *testing.T) {
 			got, err := row.KeyOf(x, l)
 			if want, wantErr := keyedOf(x, l); got != want || err != wantErr {
 				t.Errorf("KeyOf of %s, %s: %.80q, %v, not %.80q, %v", told(x), short(l), got, err, want, wantErr)
+			}
+		}
+	}
+}
+
+// Whatever the column, null is no value of a key, and what is right there is a row's, too.
+func TestRW2KeyOfOfEachColumnAndValue(t *testing.T) {
+	all := values()
+	for _, f := range faults() {
+		all = append(all, f.v)
+	}
+	for kind := -2; kind <= 5; kind++ {
+		for _, may := range []bool{false, true} {
+			x := api.Table{Columns: []api.Column{{Kind: kind, Key: true, Null: may}}}
+			if s, err := row.KeyOf(x, list(null())); s != "" || err != api.ErrKind {
+				t.Errorf("KeyOf of null, a column of Kind %d, Null %t: %q, %v", kind, may, s, err)
+			}
+			for _, v := range all {
+				_, err := row.KeyOf(x, list(v))
+				if want := wrongWithKey(x.Columns[0], v); err != want || (err == nil) != (row.Check(x, list(v)) == nil) {
+					t.Errorf("KeyOf of %s, a column of Kind %d, Null %t: %v, not %v", short(list(v)), kind, may, err, want)
+				}
 			}
 		}
 	}
